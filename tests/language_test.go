@@ -6,6 +6,7 @@ import (
 	"go/format"
 	"go/parser"
 	"go/token"
+	"go/types"
 	"os"
 	"path/filepath"
 	"slices"
@@ -129,19 +130,85 @@ func arraysOf(f *ast.File) []string {
 	return out
 }
 
-func TestWaysOfBytes(t *testing.T) {
+func layer(t *testing.T, name string) source {
 	for _, s := range sources(t) {
-		if filepath.Base(s.name) != "l01_bytes.go" {
+		if filepath.Base(s.name) == name {
+			return s
+		}
+	}
+	t.Fatal("no layer", name)
+	return source{}
+}
+
+// reached tells the functions of a layer that the one of this name reaches, and itself.
+func reached(functions map[string]*ast.FuncDecl, name string) []*ast.FuncDecl {
+	met := map[string]bool{name: true}
+	work := []string{name}
+	var out []*ast.FuncDecl
+	for len(work) > 0 {
+		f := functions[work[0]]
+		work = work[1:]
+		if f == nil {
 			continue
 		}
-		functions := functionsOf(s.file)
-		if !slices.ContainsFunc(namesIn(functions["PutNum"]), func(name string) bool { return isVariadic(functions[name]) }) {
-			t.Error("numbers are not put by a variadic function")
+		out = append(out, f)
+		for _, n := range namesIn(f) {
+			if functions[n] != nil && !met[n] {
+				met[n] = true
+				work = append(work, n)
+			}
 		}
-		if !slices.ContainsFunc(namesIn(functions["Sum"]), func(name string) bool { return slices.Contains(arraysOf(s.file), name) }) {
-			t.Error("the table of the sum is no array")
-		}
-		return
 	}
-	t.Error("no layer 1")
+	return out
+}
+
+// anyIn tells whether something in these functions is as asked.
+func anyIn(functions []*ast.FuncDecl, asked func(ast.Node) bool) bool {
+	found := false
+	for _, f := range functions {
+		ast.Inspect(f, func(n ast.Node) bool {
+			found = found || n != nil && asked(n)
+			return !found
+		})
+	}
+	return found
+}
+
+func callOf(name string) func(ast.Node) bool {
+	return func(n ast.Node) bool {
+		c, ok := n.(*ast.CallExpr)
+		return ok && types.ExprString(c.Fun) == name
+	}
+}
+
+func TestWaysOfBytes(t *testing.T) {
+	s := layer(t, "l01_bytes.go")
+	functions := functionsOf(s.file)
+	if !slices.ContainsFunc(namesIn(functions["PutNum"]), func(name string) bool { return isVariadic(functions[name]) }) {
+		t.Error("numbers are not put by a variadic function")
+	}
+	if !slices.ContainsFunc(namesIn(functions["Sum"]), func(name string) bool { return slices.Contains(arraysOf(s.file), name) }) {
+		t.Error("the table of the sum is no array")
+	}
+}
+
+func TestWaysOfFiles(t *testing.T) {
+	functions := functionsOf(layer(t, "l02_files.go").file)
+	isNameMap := func(n ast.Node) bool {
+		m, ok := n.(*ast.MapType)
+		return ok && types.ExprString(m.Key) == "string"
+	}
+	for _, name := range []string{"Create", "Append", "Rename", "Remove", "Bytes"} {
+		if !anyIn(reached(functions, name), isNameMap) {
+			t.Error(name, "has no map of names")
+		}
+		if !anyIn(reached(functions, name), callOf("copy")) {
+			t.Error(name, "copies no bytes by copy")
+		}
+	}
+	for _, name := range []string{"Rename", "Remove"} {
+		if !anyIn(reached(functions, name), callOf("delete")) {
+			t.Error(name, "deletes no name from a map")
+		}
+	}
 }
