@@ -212,3 +212,39 @@ func TestWaysOfFiles(t *testing.T) {
 		}
 	}
 }
+
+// isIterator tells whether a function answers what can be ranged over.
+func isIterator(f *ast.FuncDecl) bool {
+	return f != nil && f.Type.Results != nil && len(f.Type.Results.List) == 1 &&
+		strings.HasPrefix(types.ExprString(f.Type.Results.List[0].Type), "iter.Seq")
+}
+
+func TestWaysOfLogs(t *testing.T) {
+	functions := functionsOf(layer(t, "l03_log.go").file)
+	leaves := func(n ast.Node) bool {
+		b, ok := n.(*ast.BranchStmt)
+		_, returns := n.(*ast.ReturnStmt)
+		return returns || ok && b.Tok == token.BREAK
+	}
+	isLeftLoop := func(n ast.Node) bool {
+		loop, ok := n.(*ast.RangeStmt)
+		if !ok {
+			return false
+		}
+		call, ok := loop.X.(*ast.CallExpr)
+		if !ok || !isIterator(functions[types.ExprString(call.Fun)]) {
+			return false
+		}
+		left := false
+		ast.Inspect(loop.Body, func(n ast.Node) bool {
+			left = left || n != nil && leaves(n)
+			return !left
+		})
+		return left
+	}
+	for _, name := range []string{"Records", "Mend"} {
+		if !anyIn(reached(functions, name), isLeftLoop) {
+			t.Error(name, "takes no bodies out of an iterator that is left")
+		}
+	}
+}
