@@ -248,3 +248,56 @@ func TestWaysOfLogs(t *testing.T) {
 		}
 	}
 }
+
+// genericTypes tells the names of the types with a parameter that reach their like by pointers.
+func genericTypes(f *ast.File) []string {
+	var out []string
+	ast.Inspect(f, func(n ast.Node) bool {
+		spec, ok := n.(*ast.TypeSpec)
+		if !ok || spec.TypeParams == nil {
+			return true
+		}
+		ast.Inspect(spec.Type, func(n ast.Node) bool {
+			if star, ok := n.(*ast.StarExpr); ok && strings.HasPrefix(types.ExprString(star.X), spec.Name.Name+"[") {
+				out = append(out, spec.Name.Name)
+			}
+			return true
+		})
+		return true
+	})
+	return out
+}
+
+// rangesOverText tells whether a function goes through a text that is handed in to it, rune by rune.
+func rangesOverText(f *ast.FuncDecl) bool {
+	texts := map[string]bool{}
+	for _, p := range f.Type.Params.List {
+		for _, name := range p.Names {
+			texts[name.Name] = types.ExprString(p.Type) == "string"
+		}
+	}
+	return anyIn([]*ast.FuncDecl{f}, func(n ast.Node) bool {
+		loop, ok := n.(*ast.RangeStmt)
+		return ok && loop.Value != nil && texts[types.ExprString(loop.X)]
+	})
+}
+
+func TestWaysOfMem(t *testing.T) {
+	file := layer(t, "l04_mem.go").file
+	functions := functionsOf(file)
+	towers := genericTypes(file)
+	isTower := func(n ast.Node) bool {
+		x, ok := n.(*ast.Ident)
+		return ok && slices.Contains(towers, x.Name)
+	}
+	for _, name := range []string{"MemPut", "Leaps"} {
+		if !anyIn(reached(functions, name), isTower) {
+			t.Error(name, "has no towers of a generic type, reached by pointers")
+		}
+	}
+	for _, name := range []string{"MemOk", "MemPut", "Leaps", "Merge", "Range"} {
+		if !slices.ContainsFunc(reached(functions, name), rangesOverText) {
+			t.Error(name, "reads no key rune by rune")
+		}
+	}
+}
