@@ -301,3 +301,40 @@ func TestWaysOfMem(t *testing.T) {
 		}
 	}
 }
+
+// wraps tells whether a type of the program is an error that can be unwrapped.
+func wraps(f *ast.File, name string) bool {
+	met := map[string]bool{}
+	for _, d := range f.Decls {
+		if m, ok := d.(*ast.FuncDecl); ok && m.Recv != nil && strings.TrimPrefix(types.ExprString(m.Recv.List[0].Type), "*") == name {
+			met[m.Name.Name] = true
+		}
+	}
+	return met["Error"] && met["Unwrap"]
+}
+
+func TestWaysOfTables(t *testing.T) {
+	file := layer(t, "l05_table.go").file
+	functions := functionsOf(file)
+	isThreeIndexed := func(n ast.Node) bool {
+		s, ok := n.(*ast.SliceExpr)
+		return ok && s.Slice3
+	}
+	isWrapped := func(n ast.Node) bool {
+		x, ok := n.(*ast.CompositeLit)
+		return ok && x.Type != nil && wraps(file, types.ExprString(x.Type))
+	}
+	for _, name := range []string{"PutTable", "TableGet", "TablePairs"} {
+		if !anyIn(reached(functions, name), isThreeIndexed) {
+			t.Error(name, "cuts no block by three indexes")
+		}
+	}
+	for _, name := range []string{"TableGet", "TablePairs"} {
+		if !anyIn(reached(functions, name), callOf("errors.Is")) {
+			t.Error(name, "asks for no error by errors.Is")
+		}
+		if !anyIn(reached(functions, name), isWrapped) {
+			t.Error(name, "wraps no error")
+		}
+	}
+}
