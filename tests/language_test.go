@@ -338,3 +338,64 @@ func TestWaysOfTables(t *testing.T) {
 		}
 	}
 }
+
+// withMethods tells the functions of a layer, and its methods, by their names.
+func withMethods(f *ast.File) map[string]*ast.FuncDecl {
+	out := map[string]*ast.FuncDecl{}
+	for _, d := range f.Decls {
+		if x, ok := d.(*ast.FuncDecl); ok {
+			out[x.Name.Name] = x
+		}
+	}
+	return out
+}
+
+// countedConstants tells the names of the constants that are counted by iota.
+func countedConstants(f *ast.File) []string {
+	var out []string
+	for _, d := range f.Decls {
+		group, ok := d.(*ast.GenDecl)
+		if !ok || group.Tok != token.CONST || !strings.Contains(types.ExprString(firstValue(group)), "iota") {
+			continue
+		}
+		for _, s := range group.Specs {
+			for _, name := range s.(*ast.ValueSpec).Names {
+				out = append(out, name.Name)
+			}
+		}
+	}
+	return out
+}
+
+func firstValue(group *ast.GenDecl) ast.Expr {
+	if v := group.Specs[0].(*ast.ValueSpec).Values; len(v) > 0 {
+		return v[0]
+	}
+	return ast.NewIdent("none")
+}
+
+func TestWaysOfManifests(t *testing.T) {
+	file := layer(t, "l06_manifest.go").file
+	functions := withMethods(file)
+	isTwoValued := func(n ast.Node) bool {
+		a, ok := n.(*ast.AssignStmt)
+		if !ok || len(a.Lhs) != 2 || len(a.Rhs) != 1 {
+			return false
+		}
+		x, ok := a.Rhs[0].(*ast.TypeAssertExpr)
+		return ok && x.Type != nil
+	}
+	levels := countedConstants(file)
+	isLevel := func(n ast.Node) bool {
+		x, ok := n.(*ast.Ident)
+		return ok && slices.Contains(levels, x.Name)
+	}
+	for _, name := range []string{"ParseMan", "Current"} {
+		if !anyIn(reached(functions, name), isTwoValued) {
+			t.Error(name, "tells no word by an assertion with two values")
+		}
+	}
+	if !anyIn(reached(functions, "ManOk"), isLevel) {
+		t.Error("levels are no constants with iota")
+	}
+}
