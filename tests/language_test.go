@@ -399,3 +399,30 @@ func TestWaysOfManifests(t *testing.T) {
 		t.Error("levels are no constants with iota")
 	}
 }
+
+// catches tells what is a deferred function literal that recovers.
+func catches(n ast.Node) bool {
+	d, ok := n.(*ast.DeferStmt)
+	if !ok {
+		return false
+	}
+	_, literal := d.Call.Fun.(*ast.FuncLit)
+	found := false
+	ast.Inspect(d.Call, func(n ast.Node) bool {
+		found = found || n != nil && callOf("recover")(n)
+		return !found
+	})
+	return literal && found
+}
+
+func TestWaysOfStores(t *testing.T) {
+	functions := withMethods(layer(t, "l07_store.go").file)
+	for _, name := range []string{"Write", "Make", "Flush", "Press", "Settle", "Open"} {
+		if !anyIn(reached(functions, name), callOf("panic")) {
+			t.Error(name, "gives up by no panic")
+		}
+		if !anyIn(reached(functions, name), catches) {
+			t.Error(name, "has no deferred recover at its face")
+		}
+	}
+}

@@ -76,12 +76,19 @@ func copyValue(v reflect.Value, room func(reflect.Value) reflect.Value) reflect.
 		}
 	case reflect.Slice:
 		out.Set(room(v))
+		if isBytes(v) {
+			reflect.Copy(out, v.Slice(0, out.Len()))
+			break
+		}
 		for i := range out.Len() {
 			out.Index(i).Set(copyValue(v.Slice(0, out.Len()).Index(i), room))
 		}
 	}
 	return out
 }
+
+// isBytes tells what has no lists in it and may be long, so that it is not gone through.
+func isBytes(v reflect.Value) bool { return v.Type().Elem().Kind() == reflect.Uint8 }
 
 func fillSecret(v reflect.Value) {
 	switch v.Kind() {
@@ -122,7 +129,7 @@ func spansOf(v reflect.Value, name string) []span {
 		if v.Cap() > 0 {
 			out = append(out, span{v.Pointer(), v.Pointer() + uintptr(v.Cap())*v.Type().Elem().Size(), name})
 		}
-		for i := range v.Len() {
+		for i := 0; i < v.Len() && !isBytes(v); i++ {
 			out = append(out, spansOf(v.Index(i), fmt.Sprint(name, "[", i, "]"))...)
 		}
 	}
@@ -145,7 +152,7 @@ func secretsIn(v reflect.Value, name string) []string {
 				out = append(out, name)
 			}
 		}
-		for i := range v.Len() {
+		for i := 0; i < v.Len() && !isBytes(v); i++ {
 			out = append(out, secretsIn(v.Index(i), fmt.Sprint(name, "[", i, "]"))...)
 		}
 	}
@@ -208,6 +215,9 @@ func sameValue(a reflect.Value, b reflect.Value) bool {
 	case reflect.Slice:
 		if a.Len() != b.Len() {
 			return false
+		}
+		if isBytes(a) {
+			return bytes.Equal(a.Bytes(), b.Bytes())
 		}
 		for i := range a.Len() {
 			if !sameValue(a.Index(i), b.Index(i)) {
