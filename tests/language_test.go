@@ -426,3 +426,42 @@ func TestWaysOfStores(t *testing.T) {
 		}
 	}
 }
+
+// loopsByGoto tells whether a function goes back to a label of its own.
+func loopsByGoto(f *ast.FuncDecl) bool {
+	labels := map[string]token.Pos{}
+	return anyIn([]*ast.FuncDecl{f}, func(n ast.Node) bool {
+		if l, ok := n.(*ast.LabeledStmt); ok {
+			labels[l.Label.Name] = l.Pos()
+		}
+		b, ok := n.(*ast.BranchStmt)
+		return ok && b.Tok == token.GOTO && labels[b.Label.Name].IsValid()
+	})
+}
+
+// clearsForEach tells what is a loop in which something is cleared.
+func clearsForEach(n ast.Node) bool {
+	_, counted := n.(*ast.ForStmt)
+	_, ranged := n.(*ast.RangeStmt)
+	if !counted && !ranged {
+		return false
+	}
+	found := false
+	ast.Inspect(n, func(n ast.Node) bool {
+		found = found || n != nil && callOf("clear")(n)
+		return !found
+	})
+	return found
+}
+
+func TestWaysOfGraphs(t *testing.T) {
+	functions := functionsOf(layer(t, "l08_graph.go").file)
+	for _, name := range []string{"Whole", "Group", "OrderOf"} {
+		if !slices.ContainsFunc(reached(functions, name), loopsByGoto) {
+			t.Error(name, "has no loop by goto")
+		}
+		if !anyIn(reached(functions, name), clearsForEach) {
+			t.Error(name, "clears nothing for each")
+		}
+	}
+}
