@@ -465,3 +465,58 @@ func TestWaysOfGraphs(t *testing.T) {
 		}
 	}
 }
+
+// withMethodsOf tells the names of the types of a layer that have methods.
+func withMethodsOf(f *ast.File) []string {
+	var out []string
+	for _, d := range f.Decls {
+		if m, ok := d.(*ast.FuncDecl); ok && m.Recv != nil {
+			out = append(out, types.ExprString(m.Recv.List[0].Type))
+		}
+	}
+	return out
+}
+
+// tellsKinds tells what is a type switch with a case for each of several types.
+func tellsKinds(named []string) func(ast.Node) bool {
+	return func(n ast.Node) bool {
+		s, ok := n.(*ast.TypeSwitchStmt)
+		if !ok {
+			return false
+		}
+		kinds := 0
+		for _, c := range s.Body.List {
+			for _, x := range c.(*ast.CaseClause).List {
+				if slices.Contains(named, types.ExprString(x)) {
+					kinds++
+				}
+			}
+		}
+		return kinds >= 3
+	}
+}
+
+func TestWaysOfReplicas(t *testing.T) {
+	file := layer(t, "l09_replica.go").file
+	functions := functionsOf(file)
+	fallsThrough := func(n ast.Node) bool {
+		b, ok := n.(*ast.BranchStmt)
+		return ok && b.Tok == token.FALLTHROUGH
+	}
+	for _, name := range []string{"Submit", "Hear"} {
+		if !anyIn(reached(functions, name), tellsKinds(withMethodsOf(file))) {
+			t.Error(name, "tells no words by a type switch with a type for each kind")
+		}
+		if !anyIn(reached(functions, name), fallsThrough) {
+			t.Error(name, "falls through to nothing that all do")
+		}
+	}
+	for name, f := range functions {
+		if ast.IsExported(name) && anyIn([]*ast.FuncDecl{f}, func(n ast.Node) bool {
+			_, ok := n.(*ast.TypeSwitchStmt)
+			return ok
+		}) {
+			t.Error(name, "tells kinds at the face")
+		}
+	}
+}
