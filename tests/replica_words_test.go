@@ -265,6 +265,44 @@ func TestExchangesInAllOrders(t *testing.T) {
 	}
 }
 
+// All words heard, the oldest first or the newest first, of commands that are asked for at one replica or at all.
+func TestExchangesOfEachSize(t *testing.T) {
+	for n := 1; n <= 7; n++ {
+		for id := 0; id <= n; id++ {
+			for _, oldest := range []bool{true, false} {
+				asked := map[int][]string{id: {"put k=1", "get k", "put l=2", "del k"}}
+				if id == 0 {
+					asked = map[int][]string{}
+					for each := 1; each <= n; each++ {
+						asked[each] = []string{fmt.Sprint("put k=", each), "get k"}
+					}
+				}
+				w := newWalk(t, nil, n)
+				for each := 1; each <= n; each++ {
+					for _, text := range asked[each] {
+						next, said, _ := mustSubmit(t, text, w.at(each), cmd(text))
+						w.reps[each-1], w.net = next, append(w.net, said...)
+					}
+				}
+				w.hearAll(oldest)
+				mustHaveDoneAll(t, asked, w.reps)
+			}
+		}
+	}
+}
+
+func (w *walk) hearAll(oldest bool) {
+	for len(w.net) > 0 {
+		at := 0
+		if !oldest {
+			at = len(w.net) - 1
+		}
+		m := w.net[at]
+		w.net = slices.Delete(w.net, at, at+1)
+		w.take(m)
+	}
+}
+
 func TestNextTwelveAndThirteen(t *testing.T) {
 	for _, n := range []int{1, 2, 3, 7} {
 		r := impl.ReplicaNew(n, n)
