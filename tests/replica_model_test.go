@@ -250,8 +250,9 @@ func slowReplicaOk(r impl.Replica) bool {
 		slices.Equal(r.Map, made) && slices.Equal(r.Said, said)
 }
 
+// slowMsgOk asks of any replica, also of one that is not right.
 func slowMsgOk(r impl.Replica, m impl.Msg) bool {
-	if !slowReplicaOk(r) || m.To != r.Id || m.From == r.Id || m.From < 1 || m.From > r.N {
+	if m.To != r.Id || m.From == r.Id || m.From < 1 || m.From > r.N {
 		return false
 	}
 	if !slowDotsOk([]impl.Dot{m.D}, 1) || !slowDepsOk(m.D, m.Deps) {
@@ -518,9 +519,7 @@ func mustBeNoReplica(t *testing.T, what string, r impl.Replica) {
 		}
 	}
 	for _, m := range wordsFor(r) {
-		if got, said := impl.Hear(r, m); impl.MsgOk(r, m) || !same(got, r) || len(said) != 0 {
-			t.Errorf("%s: Hear of %v at %v: %v, %v", what, m, r, got, said)
-		}
+		mustNotBeHeard(t, what, r, m)
 	}
 	if l := impl.Again(r); len(l) != 0 {
 		t.Errorf("%s: Again of %v: %v", what, r, l)
@@ -530,8 +529,20 @@ func mustBeNoReplica(t *testing.T, what string, r impl.Replica) {
 	}
 }
 
-// wordsFor are words of each kind to a replica that would be right for it if
-// it were: of what is not known, and of some that it knows.
+// mustNotBeHeard has a word be right or not for a replica that is not, and
+// nothing come of it.
+func mustNotBeHeard(t *testing.T, what string, r impl.Replica, m impl.Msg) {
+	t.Helper()
+	if ok := impl.MsgOk(r, m); ok != slowMsgOk(r, m) {
+		t.Errorf("%s: MsgOk of %v at %v: %v", what, m, r, ok)
+	}
+	if got, said := impl.Hear(r, m); !same(got, r) || len(said) != 0 {
+		t.Errorf("%s: Hear of %v at %v: %v, %v", what, m, r, got, said)
+	}
+}
+
+// wordsFor are words of each kind to a replica: of what is not known, and of
+// some that it knows.
 func wordsFor(r impl.Replica) []impl.Msg {
 	from := 1
 	if r.Id == 1 {

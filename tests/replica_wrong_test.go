@@ -412,6 +412,124 @@ func TestWordsForAnother(t *testing.T) {
 	}
 }
 
+// Whether a word is right hangs on the replica's Id, N and what it has: what is
+// wrong elsewhere changes nothing.
+func TestWordsForWrongReplicas(t *testing.T) {
+	right, wrong := rightWords(), wrongWords()
+	alike, others := 0, 0
+	for why, r := range wrongReplicas() {
+		if !asksAlike(r, fullLife()) {
+			others++
+			mustFitAsTold(t, why, r, right)
+			mustFitAsTold(t, why, r, wrong)
+			continue
+		}
+		alike++
+		for what, m := range right {
+			if !impl.MsgOk(r, m) {
+				t.Errorf("%s: no right word: %s", why, what)
+			}
+			mustNotBeHeard(t, why, r, m)
+		}
+		for what, m := range wrong {
+			if impl.MsgOk(r, m) {
+				t.Errorf("%s: a right word: %s", why, what)
+			}
+		}
+	}
+	if alike < 150 || others < 20 {
+		t.Error("alike:", alike, "others:", others)
+	}
+}
+
+// asksAlike is of two that are alike in all that a word must fit.
+func asksAlike(a impl.Replica, b impl.Replica) bool {
+	return a.Id == b.Id && a.N == b.N && slices.Equal(ownDotsOf(a), ownDotsOf(b))
+}
+
+// ownDotsOf are those that a MsgAck may be of, ascending, each once.
+func ownDotsOf(r impl.Replica) []impl.Dot {
+	var out []impl.Dot
+	for _, x := range r.Recs {
+		if x.D.R == r.Id {
+			out = append(out, x.D)
+		}
+	}
+	return slices.Compact(sortDots(out))
+}
+
+func mustFitAsTold(t *testing.T, why string, r impl.Replica, words map[string]impl.Msg) {
+	t.Helper()
+	for what, m := range words {
+		if ok := impl.MsgOk(r, m); ok != slowMsgOk(r, m) {
+			t.Errorf("%s: MsgOk of %s: %v", why, what, ok)
+		}
+	}
+}
+
+// Each word is asked of a replica that is not right, for the reason named.
+func TestWordsForWrongReplicasByHand(t *testing.T) {
+	own := []impl.Rec{rec("1.1 put k=1")}
+	seat := func(id int, n int, recs ...string) impl.Replica {
+		r := impl.Replica{Id: id, N: n, Next: 500}
+		for _, text := range recs {
+			r.Recs = append(r.Recs, rec(text))
+		}
+		return r
+	}
+	for _, c := range []struct {
+		why  string
+		r    impl.Replica
+		m    string
+		want bool
+	}{
+		{"Next, and no Recs", impl.Replica{Id: 1, N: 2, Next: 2}, "ask 2>1 2.1 put b=1", true},
+		{"Next, and no Recs", impl.Replica{Id: 1, N: 2, Next: 2}, "tell 2>1 2.1 put b=1", true},
+		{"Next, and no Recs", impl.Replica{Id: 1, N: 2, Next: 2}, "ack 2>1 1.1", false},
+		{"Next", impl.Replica{Id: 1, N: 2, Recs: own}, "ack 2>1 1.1", true},
+		{"Map", impl.Replica{Id: 1, N: 2, Next: 2, Recs: own, Map: pairs("z=1")}, "ack 2>1 1.1", true},
+		{"Acks", impl.Replica{Id: 1, N: 2, Next: 2, Recs: own, Acks: []impl.Ack{{D: dot("1.2"), From: 1}}}, "ack 2>1 1.1", true},
+		{"Said", impl.Replica{Id: 1, N: 2, Next: 2, Recs: own, Said: []impl.Answer{{D: dot("1.1")}}}, "ack 2>1 1.1 :2.1", true},
+		{"Sure and not Done", seat(1, 2, "1.1 put k=1 sure"), "ack 2>1 1.1", true},
+		{"not ascending, first", seat(1, 2, "1.3 get k", "1.2 get k", "1.1 get k"), "ack 2>1 1.3", true},
+		{"not ascending, between", seat(1, 2, "1.3 get k", "1.2 get k", "1.1 get k"), "ack 2>1 1.2", true},
+		{"not ascending, last", seat(1, 2, "1.3 get k", "1.2 get k", "1.1 get k"), "ack 2>1 1.1", true},
+		{"not ascending, not there", seat(1, 2, "1.3 get k", "1.2 get k", "1.1 get k"), "ack 2>1 1.4", false},
+		{"twice", seat(1, 2, "2.1 get k", "2.1 get k", "1.1 get k", "1.1 get k"), "ack 2>1 1.1", true},
+		{"no Cmd", impl.Replica{Id: 1, N: 2, Recs: []impl.Rec{{D: dot("1.1")}}}, "ack 2>1 1.1", true},
+		// The Id is none of N: no Dot of its own is.
+		{"Id above N", seat(5, 2, "5.1 get k"), "ask 2>5 2.1 put k=1 :1.1", true},
+		{"Id above N", seat(5, 2, "5.1 get k"), "tell 1>5 1.1 put k=1 :2.1", true},
+		{"Id above N", seat(5, 2, "5.1 get k"), "ack 2>5 5.1", false},
+		{"Id above N", seat(5, 2, "5.1 get k"), "ask 3>5 3.1 put k=1", false},
+		{"Id above N, with Deps of its own", seat(5, 2, "5.1 get k"), "ask 2>5 2.1 put k=1 :5.1", false},
+		{"Id 0", seat(0, 2), "ask 2>0 2.1 put k=1", true},
+		{"Id 0", impl.Replica{N: 2, Recs: []impl.Rec{{D: impl.Dot{N: 1}, C: cmd("get k")}}}, "ack 2>0 0.1", false},
+		// All of N 9 are others, but Dots of 8 and 9 are not right.
+		{"N 9", seat(1, 9, "1.1 get k"), "ack 9>1 1.1 :7.999", true},
+		{"N 9", seat(1, 9, "1.1 get k"), "ack 10>1 1.1", false},
+		{"N 9", seat(1, 9, "1.1 get k"), "ask 7>1 7.1 get k", true},
+		{"N 9", seat(1, 9, "1.1 get k"), "ask 8>1 8.1 get k", false},
+		{"N 9", seat(1, 9, "1.1 get k"), "ack 2>1 1.1 :8.1", false},
+		{"N 9, Id 8", seat(8, 9, "8.1 get k"), "ack 2>8 8.1", false},
+		{"N 0", seat(1, 0, "1.1 get k"), "ask 2>1 2.1 get k", false},
+		{"N 0", seat(1, 0, "1.1 get k"), "ack 2>1 1.1", false},
+		{"N 1", seat(1, 1, "1.1 get k"), "ack 1>1 1.1", false},
+		{"a Dot that is not right", impl.Replica{Id: 1, N: 2, Recs: []impl.Rec{{D: impl.Dot{R: 1, N: 1000}}}}, "ack 2>1 1.1000", false},
+		{"itself among Deps", impl.Replica{Id: 1, N: 2, Recs: own}, "ack 2>1 1.1 :1.1", false},
+		{"with a Cmd", impl.Replica{Id: 1, N: 2, Recs: own}, "ack 2>1 1.1 put k=1", false},
+	} {
+		what := c.why + ": " + c.m
+		if impl.ReplicaOk(c.r) {
+			t.Error(what, "at a right replica")
+		}
+		if ok := impl.MsgOk(c.r, msg(c.m)); ok != c.want {
+			t.Error(what, ok)
+		}
+		mustNotBeHeard(t, what, c.r, msg(c.m))
+	}
+}
+
 // bentMsg is a word of which one thing is changed.
 func bentMsg(r *rand.Rand, m impl.Msg) impl.Msg {
 	odd := append(wrongDots(), dots("1.1 1.2 2.1 3.3 6.1 7.999")...)
