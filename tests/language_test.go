@@ -520,3 +520,33 @@ func TestWaysOfReplicas(t *testing.T) {
 		}
 	}
 }
+
+// asksPairs tells whether a function is generic, and has a function value of two handed to it.
+func asksPairs(f *ast.FuncDecl) bool {
+	return f.Type.TypeParams != nil && anyIn([]*ast.FuncDecl{f}, func(n ast.Node) bool {
+		p, ok := n.(*ast.FuncType)
+		return ok && p != f.Type && p.Params.NumFields() == 2
+	})
+}
+
+func TestWaysOfSafe(t *testing.T) {
+	functions := functionsOf(layer(t, "l11_safe.go").file)
+	isDotOf := func(x ast.Expr) bool {
+		s, ok := x.(*ast.SelectorExpr)
+		return ok && s.Sel.Name == "D"
+	}
+	comparesDots := func(n ast.Node) bool {
+		b, ok := n.(*ast.BinaryExpr)
+		return ok && (b.Op == token.EQL || b.Op == token.NEQ) && isDotOf(b.X) && isDotOf(b.Y)
+	}
+	for _, name := range []string{"Ordered", "Agreed", "Timely"} {
+		if !slices.ContainsFunc(reached(functions, name), asksPairs) {
+			t.Error(name, "hands no function value to a generic function")
+		}
+	}
+	for _, name := range []string{"Ordered", "Timely"} {
+		if !anyIn(reached(functions, name), comparesDots) {
+			t.Error(name, "compares no dots as structs")
+		}
+	}
+}
