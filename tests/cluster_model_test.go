@@ -252,6 +252,7 @@ func mustBeNoCluster(t *testing.T, what string, w impl.Cluster) {
 			t.Errorf("%s: a Play of %d changes it", what, len(l))
 		}
 	}
+	mustNotBeMoved(t, what, w)
 }
 
 // oneOfEach is an event of each kind that is done by any cluster with a word on its way.

@@ -394,8 +394,9 @@ func TestMemoryOfADoubledWord(t *testing.T) {
 	}
 }
 
-// Where lists of the argument share memory, those of the answer share none.
-func TestClustersOfListsThatAreHandedInTwice(t *testing.T) {
+// sharingClusters are a right one and a wrong one in which all lists of Dots are the same memory, and that.
+func sharingClusters(t *testing.T) ([]impl.Cluster, []impl.Dot) {
+	t.Helper()
 	deps := dots("2.1 3.1")
 	w := impl.ClusterNew(3)
 	w.Reps[0].Recs = []impl.Rec{{D: dot("1.1"), C: cmd("put k=1"), Deps: deps}, {D: dot("1.2"), C: cmd("put l=1"), Deps: deps}, {D: dot("2.2"), C: cmd("get m"), Deps: deps}}
@@ -412,24 +413,35 @@ func TestClustersOfListsThatAreHandedInTwice(t *testing.T) {
 	}
 	wrong := w
 	wrong.Asked = append(slices.Clone(w.Asked), impl.Asked{Before: deps})
+	return []impl.Cluster{w, wrong}, deps
+}
+
+func mustNotShare(t *testing.T, what string, spans []span) {
+	t.Helper()
+	for i, a := range spans {
+		for _, b := range spans[i+1:] {
+			if a.from < b.to && b.from < a.to {
+				t.Errorf("%s: %s shares memory with %s", what, a.name, b.name)
+			}
+		}
+	}
+}
+
+// Where lists of the argument share memory, those of the answer share none.
+func TestClustersOfListsThatAreHandedInTwice(t *testing.T) {
+	all, deps := sharingClusters(t)
 	lists := [][]impl.Event{nil, oneOfEach(), events("deliver 4; deliver 3; deliver 2; deliver 1; deliver 0; double 0; double 1; again 0; submit 0 put k=2; submit 1 put k=3")}
 	for _, e := range append(oneOfEach(), events("deliver 1; deliver 2; deliver 3; deliver 4; double 1; double 2; nothing 0; submit 1 put k=2")...) {
 		lists = append(lists, []impl.Event{e})
 	}
 	for _, list := range lists {
-		for _, in := range []impl.Cluster{w, wrong} {
+		for _, in := range all {
 			spans := slices.Concat(spansOf(reflect.ValueOf(impl.Play(in, list)), "Play"), spansOf(reflect.ValueOf(deps), "Deps"))
 			for _, e := range list {
 				next, _ := impl.Do(in, e)
 				spans = append(spans, spansOf(reflect.ValueOf(next), "Do")...)
 			}
-			for i, a := range spans {
-				for _, b := range spans[i+1:] {
-					if a.from < b.to && b.from < a.to {
-						t.Errorf("%v: %s shares memory with %s", list, a.name, b.name)
-					}
-				}
-			}
+			mustNotShare(t, fmt.Sprint(list), spans)
 		}
 	}
 }

@@ -550,3 +550,27 @@ func TestWaysOfSafe(t *testing.T) {
 		}
 	}
 }
+
+// goesOnByLabel tells what is a closure in which a loop goes on by its label.
+func goesOnByLabel(n ast.Node) bool {
+	closure, ok := n.(*ast.FuncLit)
+	if !ok {
+		return false
+	}
+	found := false
+	ast.Inspect(closure.Body, func(n ast.Node) bool {
+		b, ok := n.(*ast.BranchStmt)
+		found = found || ok && b.Tok == token.CONTINUE && b.Label != nil
+		return !found
+	})
+	return found
+}
+
+func TestWaysOfQuietTimes(t *testing.T) {
+	functions := functionsOf(layer(t, "l12_quiet.go").file)
+	for _, name := range []string{"Round", "Settled"} {
+		if !anyIn(reached(functions, name), goesOnByLabel) {
+			t.Error(name, "has no closure in which a loop goes on by its label")
+		}
+	}
+}

@@ -38,17 +38,16 @@ func movesOf(w impl.Cluster, asked map[int][]string) [][]impl.Event {
 	return out
 }
 
-// mustBeSafeAllAlong goes to all clusters that events lead to, and answers how
-// many these are.
-func mustBeSafeAllAlong(t *testing.T, n int, asked map[int][]string) int {
-	t.Helper()
+// goAllAlong goes to all clusters that events lead to, asks something of each,
+// and answers how many these are.
+func goAllAlong(n int, asked map[int][]string, ask func(w impl.Cluster)) int {
 	start := impl.ClusterNew(n)
 	met := map[string]bool{showCluster(start): true}
 	work := []impl.Cluster{start}
 	for len(work) > 0 {
 		w := work[len(work)-1]
 		work = work[:len(work)-1]
-		mustBeSafe(t, "all along", w)
+		ask(w)
 		for _, list := range movesOf(w, asked) {
 			next := withoutTwins(impl.Play(w, list))
 			if key := showCluster(next); !met[key] {
@@ -74,7 +73,8 @@ func TestSafeInAllOrders(t *testing.T) {
 		{3, 1000, map[int][]string{2: {"put k=1", "del k"}}},
 		{5, 200, map[int][]string{4: {"put k=1"}}},
 	} {
-		if met := mustBeSafeAllAlong(t, x.n, x.asked); met < x.least {
+		met := goAllAlong(x.n, x.asked, func(w impl.Cluster) { mustBeSafe(t, "all along", w) })
+		if met < x.least {
 			t.Error("only", met, "of", x)
 		}
 	}
