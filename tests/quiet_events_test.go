@@ -258,74 +258,117 @@ func tellers(own ...int) impl.Cluster {
 	return w
 }
 
-// lastWords are the last of all that a replica says again.
-func lastWords(r impl.Replica, n int) []string {
-	all := showMsgs(impl.Again(r))
-	return all[len(all)-n:]
+// delivered is how many words are delivered in each turn of a round.
+func delivered(w impl.Cluster) []int {
+	var out []int
+	for i := range w.Reps {
+		var n int
+		w, n = turnBy(w, i, impl.Play)
+		out = append(out, n)
+	}
+	return out
 }
 
-// The 3000th word is delivered, the next one is not: what is left stays in Net.
-func TestMostDelivered(t *testing.T) {
+// The words of each replica's turn are counted for that turn alone: more than
+// 3000 in one round, and all of them are heard.
+func TestEachTurnIsCountedAnew(t *testing.T) {
 	t.Parallel()
 	for _, c := range []struct {
-		own         []int
-		words, left int
+		own   []int
+		words int
+		turns []int
 	}{
-		// 3000 of their own, and what is in Net at first; beside 68 there is room for the first one's 432, beside 69 for one less.
-		{[]int{72, 72, 72, 71, 71, 71, 71}, 0, 0}, {[]int{72, 72, 72, 71, 71, 71, 71}, 1, 1}, {[]int{72, 72, 72, 71, 71, 71, 71}, 2, 2},
-		{[]int{72, 72, 72, 71, 71, 71, 71}, 68, 68}, {[]int{72, 72, 72, 71, 71, 71, 71}, 69, 68}, {[]int{72, 72, 72, 71, 71, 71, 71}, 500, 68},
-		// 2994 of their own.
-		{[]int{72, 72, 72, 71, 71, 71, 70}, 0, 0}, {[]int{72, 72, 72, 71, 71, 71, 70}, 5, 0}, {[]int{72, 72, 72, 71, 71, 71, 70}, 6, 0}, {[]int{72, 72, 72, 71, 71, 71, 70}, 7, 1},
-		// 3486 of their own; and 500, and those but for the first one's 498.
-		{[]int{83, 83, 83, 83, 83, 83, 83}, 0, 486}, {[]int{83, 83, 83, 83, 83, 83, 83}, 500, 488},
+		// About 3000 of their own, and what is in Net at first; beside 68 there is room for the first one's 432, beside 69 for one less.
+		{[]int{72, 72, 72, 71, 71, 71, 70}, 0, []int{432, 432, 432, 426, 426, 426, 420}},
+		{[]int{72, 72, 72, 71, 71, 71, 71}, 0, []int{432, 432, 432, 426, 426, 426, 426}},
+		{[]int{72, 72, 72, 72, 71, 71, 71}, 0, []int{432, 432, 432, 432, 426, 426, 426}},
+		{[]int{72, 72, 72, 71, 71, 71, 71}, 1, []int{433, 432, 432, 426, 426, 426, 426}},
+		{[]int{72, 72, 72, 71, 71, 71, 71}, 68, []int{500, 432, 432, 426, 426, 426, 426}},
+		{[]int{72, 72, 72, 71, 71, 71, 71}, 69, []int{500, 432, 432, 426, 426, 426, 426}},
+		{[]int{72, 72, 72, 71, 71, 71, 71}, 500, []int{500, 432, 432, 426, 426, 426, 426}},
+		{[]int{72, 72, 72, 72, 72, 72, 72}, 0, []int{432, 432, 432, 432, 432, 432, 432}},
+		{[]int{83, 83, 83, 83, 83, 83, 83}, 0, []int{498, 498, 498, 498, 498, 498, 498}},
+		{[]int{83, 83, 83, 83, 83, 83, 83}, 500, []int{500, 498, 498, 498, 498, 498, 498}},
+		// As many as each may know: there is no room for all that it says again.
+		{[]int{90, 90, 90, 90, 90, 90, 90}, 0, []int{500, 500, 500, 500, 500, 500, 500}},
+		// The last one has little to say, or nothing.
+		{[]int{90, 90, 90, 90, 90, 90, 1}, 0, []int{500, 500, 500, 500, 500, 500, 6}},
+		{[]int{90, 90, 90, 90, 90, 90, 0}, 500, []int{500, 500, 500, 500, 500, 500, 0}},
 		// Six of them are far from it.
-		{[]int{83, 83, 83, 83, 83, 83}, 500, 0},
+		{[]int{83, 83, 83, 83, 83, 83}, 500, []int{500, 415, 415, 415, 415, 415}},
 	} {
 		what := fmt.Sprint(c.own, " and ", c.words)
 		w := withWords(tellers(c.own...), "tell 2>1 2.1 get k", c.words)
 		mustBeRightCluster(t, what, w)
+		if turns := delivered(w); !slices.Equal(turns, c.turns) {
+			t.Errorf("%s: delivered %v", what, turns)
+		}
 		got := mustGoRound(t, what, w, impl.Play)
-		if l := showMsgs(got.Net); !slices.Equal(l, lastWords(w.Reps[len(c.own)-1], c.left)) {
-			t.Errorf("%s: left %d: %q", what, len(l), l)
+		if len(got.Net) != 0 || impl.Level(got) {
+			t.Errorf("%s: level, or left %d: %q", what, len(got.Net), showMsgs(got.Net))
 		}
-		if impl.Level(got) {
-			t.Error(what, "level")
-		}
-		// In the next round these come first, and 3000 are delivered once more.
 		if next := mustGoRound(t, what, got, impl.Play); !same(impl.Settled(w, 2), next) {
 			t.Error(what, "behind two")
 		}
 	}
 }
 
-// Of the replicas behind the 3000th word each says its own again, as far as
-// there is room, and none of that is heard in this round.
-func TestWhoIsBehindTheMostDelivered(t *testing.T) {
+// Behind 3000 words in the turns of the six others the seventh asks for its
+// own, is acked, and tells it: all of that in the same round.
+func TestWhoIsBehind3000WordsIsHeard(t *testing.T) {
 	t.Parallel()
-	// 500 asks, 500 acks, and 498 of each: the sixth has 8 delivered, and the seventh has room for ten.
-	w := withWords(tellers(83, 83, 83, 83, 83, 83, 83), "ask 2>1 2.1 get k", mostNet)
-	mustBeRightCluster(t, "83", w)
-	got := mustGoRound(t, "83", w, oneByOne(t))
-	want := append(lastWords(w.Reps[5], 490), showMsgs(impl.Again(w.Reps[6]))[:10]...)
-	if l := showMsgs(got.Net); !slices.Equal(l, want) {
-		t.Errorf("83: %d: %q", len(l), l)
+	w := tellers(89, 89, 89, 89, 89, 89, 0)
+	own := rec("7.1 put z=1")
+	for i := range w.Reps {
+		r := &w.Reps[i]
+		r.Recs = append(r.Recs, own)
 	}
-	for i, r := range got.Reps {
-		if known := slices.ContainsFunc(r.Recs, func(x impl.Rec) bool { return x.D.R == 7 }); known != (i == 6) {
-			t.Error("83: the seventh is heard by", r.Id, known)
+	last := &w.Reps[6]
+	last.Next, last.Acks = 2, []impl.Ack{{D: own.D, From: 7}}
+	mustBeRightCluster(t, "89", w)
+	if turns := delivered(w); !slices.Equal(turns, []int{500, 500, 500, 500, 500, 500, 18}) {
+		t.Fatal("delivered", turns)
+	}
+	got := mustGoRound(t, "89", w, oneByOne(t))
+	for _, r := range got.Reps {
+		at := slices.IndexFunc(r.Recs, func(x impl.Rec) bool { return x.D == own.D })
+		if !r.Recs[at].Sure || !slices.Contains(r.Done, own.D) || !same(r.Map, pairs("z=1")) {
+			t.Error("not Sure, or not done, at", r.Id)
 		}
 	}
-	// The fifth has its last one delivered and Net is empty; the sixth and the seventh fill it as far as they have words, and there is room.
-	for _, c := range []struct{ sixth, seventh, words, more int }{{90, 90, 500, 0}, {84, 90, 500, 0}, {83, 90, 498, 2}, {3, 2, 18, 12}, {0, 2, 0, 12}, {2, 0, 12, 0}, {0, 0, 0, 0}} {
-		w := tellers(89, 90, 90, 90, 90, c.sixth, c.seventh)
-		w.Reps[0].Recs = append(w.Reps[0].Recs, rec("2.1 get k"))
-		w = withWords(w, "ask 2>1 2.1 get k", mostNet)
-		what := fmt.Sprintf("%+v", c)
-		mustBeRightCluster(t, what, w)
-		got := mustGoRound(t, what, w, impl.Play)
-		want := append(showMsgs(impl.Again(got.Reps[5]))[:c.words], showMsgs(impl.Again(got.Reps[6]))[:c.more]...)
-		if l := showMsgs(got.Net); !slices.Equal(l, want) {
-			t.Errorf("%s: %d: %q", what, len(l), l)
+	if l := got.Reps[6].Said; !same(l, []impl.Answer{{D: own.D}}) {
+		t.Error("answered", l)
+	}
+}
+
+// The most that come in one turn: 500 asks, 500 acks, and 500 tells. They come
+// in the last one's, behind which nobody would hear what was left.
+func TestTheMostOfOneTurn(t *testing.T) {
+	t.Parallel()
+	w := impl.ClusterNew(7)
+	last := manyOwn(7, 7, 84)
+	for _, x := range last.Recs {
+		last.Acks = append(last.Acks, impl.Ack{D: x.D, From: 7})
+	}
+	w.Reps[6] = last
+	mustBeRightCluster(t, "84", w)
+	// Of the last of its own only two asks find room: by itself and these two it is not Sure.
+	if turns := delivered(w); !slices.Equal(turns, []int{0, 0, 0, 0, 0, 0, 1495}) {
+		t.Error("delivered", turns)
+	}
+	mustGoRound(t, "84", w, impl.Play)
+	// With one holder more it is, and its tells find room for five.
+	last.Acks = slices.Insert(last.Acks, 83, impl.Ack{D: last.Recs[83].D, From: 3})
+	w.Reps[6] = last
+	mustBeRightCluster(t, "84, one held", w)
+	if turns := delivered(w); !slices.Equal(turns, []int{0, 0, 0, 0, 0, 0, 1500}) {
+		t.Error("delivered", turns)
+	}
+	got := mustGoRound(t, "84, one held", w, oneByOne(t))
+	for i, r := range got.Reps {
+		x := slices.IndexFunc(r.Recs, func(x impl.Rec) bool { return x.D == impl.Dot{R: 7, N: 84} })
+		if sure := x >= 0 && r.Recs[x].Sure; sure != (i != 5) {
+			t.Error("the last of its own at", r.Id, sure)
 		}
 	}
 }

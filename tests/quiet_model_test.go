@@ -19,17 +19,23 @@ type mover func(w impl.Cluster, list []impl.Event) impl.Cluster
 
 // roundBy is a round of a cluster, by a mover.
 func roundBy(w impl.Cluster, move mover) impl.Cluster {
-	left := mostDelivered
 	for i := range w.Reps {
-		w = move(w, []impl.Event{{Kind: impl.EvAgain, Rep: i}})
-		for len(w.Net) > 0 && left > 0 {
-			// So many are there, whatever is said to them.
-			n := min(len(w.Net), left, mostEvents)
-			w = move(w, slices.Repeat([]impl.Event{{Kind: impl.EvDeliver}}, n))
-			left -= n
-		}
+		w, _ = turnBy(w, i, move)
 	}
 	return w
+}
+
+// turnBy is one replica's turn in a round, and how many words are delivered in it.
+func turnBy(w impl.Cluster, rep int, move mover) (impl.Cluster, int) {
+	delivered := 0
+	w = move(w, []impl.Event{{Kind: impl.EvAgain, Rep: rep}})
+	for len(w.Net) > 0 && delivered < mostDelivered {
+		// So many are there, whatever is said to them.
+		n := min(len(w.Net), mostDelivered-delivered, mostEvents)
+		w = move(w, slices.Repeat([]impl.Event{{Kind: impl.EvDeliver}}, n))
+		delivered += n
+	}
+	return w, delivered
 }
 
 // slowly asks nothing of the cluster.
@@ -114,6 +120,11 @@ func mustGoRound(t *testing.T, what string, w impl.Cluster, move mover) impl.Clu
 	}
 	if once := impl.Settled(w, 1); !same(once, got) {
 		t.Fatalf("%s: Settled of 1 round of %s: %s", what, showCluster(w), showCluster(once))
+	}
+	// An ask has one ack, an ack one tell to each, and a tell nothing: of what
+	// is in Net at the beginning of a turn never so many words come that some are left.
+	if len(got.Net) != 0 || !impl.ClusterOk(got) {
+		t.Errorf("%s: behind Round %d words are left, or it is not right: %s", what, len(got.Net), showCluster(got))
 	}
 	if !same(wholeCopy(w), before) {
 		t.Errorf("%s: Round or Settled wrote into %s", what, showCluster(w))

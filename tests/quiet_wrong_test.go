@@ -93,8 +93,8 @@ func TestRoundAsksAtTheBeginningAlone(t *testing.T) {
 	}
 }
 
-// At the end of the first round words are left that fit nobody: a second Round
-// is not gone then, but Settled asks ahead of its first round alone.
+// In each round words are said that fit nobody, so that by Do nothing would be
+// done from then on: each of the rounds goes on, and behind each it is right again.
 func TestSettledAsksAtTheBeginningAlone(t *testing.T) {
 	w := impl.ClusterNew(6)
 	for i := range w.Reps {
@@ -109,22 +109,27 @@ func TestSettledAsksAtTheBeginningAlone(t *testing.T) {
 			}
 		}
 	}
-	// 500 asks and 500 acks, and of the five behind the first 450 each: 250 of the last one's are left.
 	w = withWords(w, "ask 2>1 2.1 get k", mostNet)
 	mustBeRightCluster(t, "at first", w)
-	once := impl.Round(w)
-	if l := showMsgs(once.Net); !slices.Equal(l, lastWords(w.Reps[5], 250)) {
-		t.Fatalf("%d: %q", len(l), l)
+	if turns := delivered(ownCluster(w)); turns[0] != 2*mostNet {
+		t.Fatal("delivered", turns)
 	}
-	mustNotBeMoved(t, "behind a round", once)
-	// In the second these are heard by nobody, and so are all others.
-	want := ownCluster(once)
+	said, _ := impl.Do(impl.Cluster{Reps: w.Reps}, impl.Event{Kind: impl.EvAgain, Rep: 1})
+	if len(said.Net) != 5*mostRecs || impl.ClusterOk(said) {
+		t.Error("what is said again fits:", len(said.Net))
+	}
+	// Of all that is said only the acks are heard: the first holds what it was asked for.
+	want := ownCluster(w)
 	want.Net = nil
-	for _, rounds := range []int{2, 3, mostRounds} {
-		if got := impl.Settled(w, rounds); !same(got, want) {
-			t.Errorf("%d: %d words, %s", rounds, len(got.Net), showCluster(got))
+	want.Reps[1].Acks = []impl.Ack{{D: dot("2.1"), From: 1}}
+	rounds := w
+	for n := 1; n <= mostRounds; n++ {
+		rounds = impl.Round(rounds)
+		if got := impl.Settled(w, n); !same(got, want) || !same(rounds, want) {
+			t.Fatalf("%d: %d words, %s", n, len(got.Net), showCluster(got))
 		}
 	}
+	mustGoRound(t, "at first", w, slowly)
 }
 
 // Clusters behind events of which something is changed, right or not then.
@@ -163,7 +168,7 @@ func TestMemoryOfQuietTimes(t *testing.T) {
 	all := clustersForMemory()
 	all["calm"] = calmCluster()
 	all["settled"] = impl.Settled(calmCluster(), 2)
-	all["3000"] = withWords(tellers(83, 83, 83, 83, 83, 83, 83), "tell 2>1 2.1 get k :1.1", 3)
+	all["very many"] = withWords(tellers(83, 83, 83, 83, 83, 83, 83), "tell 2>1 2.1 get k :1.1", 3)
 	for why, w := range all {
 		checkMemory(t, why+" Round", []any{w}, func(args []any) []any { return []any{impl.Round(args[0].(impl.Cluster))} })
 		for _, rounds := range []int{0, 2, mostRounds, -1, mostRounds + 1} {
