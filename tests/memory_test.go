@@ -115,6 +115,8 @@ type span struct {
 	from uintptr
 	to   uintptr
 	name string
+	// The list itself, so that its memory is not given away while the span is asked.
+	list reflect.Value
 }
 
 // spansOf tells where the lists in v lie, with their spare room.
@@ -127,7 +129,7 @@ func spansOf(v reflect.Value, name string) []span {
 		}
 	case reflect.Slice:
 		if v.Cap() > 0 {
-			out = append(out, span{v.Pointer(), v.Pointer() + uintptr(v.Cap())*v.Type().Elem().Size(), name})
+			out = append(out, span{v.Pointer(), v.Pointer() + uintptr(v.Cap())*v.Type().Elem().Size(), name, v})
 		}
 		for i := 0; i < v.Len() && !isBytes(v); i++ {
 			out = append(out, spansOf(v.Index(i), fmt.Sprint(name, "[", i, "]"))...)
