@@ -574,3 +574,96 @@ func TestWaysOfQuietTimes(t *testing.T) {
 		}
 	}
 }
+
+// embeddedIn tells the names of the types that are embedded in a struct of a layer, and who embeds them.
+func embeddedIn(f *ast.File) map[string]string {
+	out := map[string]string{}
+	ast.Inspect(f, func(n ast.Node) bool {
+		spec, ok := n.(*ast.TypeSpec)
+		if !ok {
+			return true
+		}
+		if x, ok := spec.Type.(*ast.StructType); ok {
+			for _, field := range x.Fields.List {
+				if len(field.Names) == 0 {
+					out[strings.TrimPrefix(types.ExprString(field.Type), "*")] = spec.Name.Name
+				}
+			}
+		}
+		return true
+	})
+	return out
+}
+
+// fieldsAndMethods tells the names of what the types of a layer have, each with its type.
+func fieldsAndMethods(f *ast.File) map[string]string {
+	out := map[string]string{}
+	ast.Inspect(f, func(n ast.Node) bool {
+		switch x := n.(type) {
+		case *ast.FuncDecl:
+			if x.Recv != nil {
+				out[x.Name.Name] = strings.TrimPrefix(types.ExprString(x.Recv.List[0].Type), "*")
+			}
+		case *ast.TypeSpec:
+			fields, ok := x.Type.(*ast.StructType)
+			for i := 0; ok && i < len(fields.Fields.List); i++ {
+				for _, name := range fields.Fields.List[i].Names {
+					out[name.Name] = x.Name.Name
+				}
+			}
+		}
+		return true
+	})
+	return out
+}
+
+// takesPromoted tells whether a method uses, of its own receiver, what an embedded part has.
+func takesPromoted(f *ast.FuncDecl, embedded map[string]string, has map[string]string) bool {
+	if f.Recv == nil || len(f.Recv.List[0].Names) == 0 {
+		return false
+	}
+	receiver := f.Recv.List[0]
+	return anyIn([]*ast.FuncDecl{f}, func(n ast.Node) bool {
+		x, ok := n.(*ast.SelectorExpr)
+		return ok && types.ExprString(x.X) == receiver.Names[0].Name &&
+			embedded[has[x.Sel.Name]] == strings.TrimPrefix(types.ExprString(receiver.Type), "*")
+	})
+}
+
+func TestWaysOfTheBench(t *testing.T) {
+	file := layer(t, "l13_bench.go").file
+	functions := withMethods(file)
+	embedded, has := embeddedIn(file), fieldsAndMethods(file)
+	if len(embedded) == 0 {
+		t.Error("nothing is embedded")
+	}
+	methodValues := func(n ast.Node) int {
+		count := 0
+		if list, ok := n.(*ast.CompositeLit); ok {
+			for _, x := range list.Elts {
+				if s, ok := x.(*ast.SelectorExpr); ok && functions[s.Sel.Name] != nil && functions[s.Sel.Name].Recv != nil {
+					count++
+				}
+			}
+		}
+		return count
+	}
+	for _, name := range []string{"Bench", "Built"} {
+		values, promoted := 0, 0
+		for _, f := range reached(functions, name) {
+			anyIn([]*ast.FuncDecl{f}, func(n ast.Node) bool {
+				values += methodValues(n)
+				return false
+			})
+			if takesPromoted(f, embedded, has) {
+				promoted++
+			}
+		}
+		if values < 20 {
+			t.Error(name, "has only", values, "commands that are method values")
+		}
+		if promoted < 10 {
+			t.Error(name, "takes only in", promoted, "methods what is embedded")
+		}
+	}
+}
