@@ -29,9 +29,10 @@ type plainForm struct {
 	do      func(b *plainBench, caught []string) string
 }
 
-// plainPattern reads a form in which K, V, N and R stand for words of their kinds.
+// plainPattern reads a form in which K, V, N and R stand for words of their
+// kinds; V alone may be an empty one.
 func plainPattern(form string) *regexp.Regexp {
-	kinds := strings.NewReplacer("K", "([^ ]+)", "V", "([^ ]+)", "N", "(0|[1-9][0-9]{0,3})", "R", "([1-3])")
+	kinds := strings.NewReplacer("K", "([^ ]+)", "V", "([^ ]*)", "N", "(0|[1-9][0-9]{0,3})", "R", "([1-3])")
 	return regexp.MustCompile(`\A(?s:` + kinds.Replace(form) + `)\z`)
 }
 
@@ -282,6 +283,7 @@ func benchStates() map[string]string {
 		"both":            "put a 1\nat 1 put a 2\nflush\ndeliver 0\nfall 9\ndeliver 1\nround\n",
 		"much of no's":    "put a\nfly\nat 4 get x\npress 3\ndeliver 0\nflush\n",
 		"rewritten often": numberedLines("put a #\nput b #\ndel a", 15),
+		"empty values":    "put a \nflush\nput b 1\nput b \nat 1 put x \nat 2 get x\ndeliver 0\n",
 	}
 }
 
@@ -299,7 +301,7 @@ func spansOfBuilt(text string, name string) []span {
 // someLine is most often one that is done.
 func someLine(r *rand.Rand, w impl.Cluster) string {
 	pick := func(list ...string) string { return list[r.Intn(len(list))] }
-	key, val := pick("a", "b", "c", "dd", "eee", "ffff", "k", "k"), fmt.Sprint(r.Intn(100))
+	key, val := pick("a", "b", "c", "dd", "eee", "ffff", "k", "k"), pick("", fmt.Sprint(r.Intn(100)), fmt.Sprint(r.Intn(100)), fmt.Sprint(r.Intn(100)))
 	rep, place := 1+r.Intn(3), r.Intn(len(w.Net)+1)
 	switch k := r.Intn(100); {
 	case k < 24:
@@ -319,7 +321,7 @@ func someLine(r *rand.Rand, w impl.Cluster) string {
 	case k < 98:
 		return fmt.Sprint(pick("again ", "reboot ", "said "), rep)
 	}
-	return pick("", "fly", "put a", " scan", "again 4", "press 3", "deliver 01", "get aaaaaaaaaaaaaaaaaaaaa", "at 1 fly k")
+	return pick("", "fly", "put a", "put  1", "put a  ", "scan ", " scan", "again 4", "press 3", "deliver 01", "get aaaaaaaaaaaaaaaaaaaaa", "at 1 fly k")
 }
 
 // bentLine is one with a sign taken out, put in, changed or written twice.

@@ -39,6 +39,27 @@ func TestBenchOfPairs(t *testing.T) {
 		"put none none | ok", "get none | is none", "put empty - | ok", "get empty | is -")
 }
 
+// Behind the last blank stands an empty word, which V may be: it is there, and
+// neither Gone nor a word that is lacking.
+func TestBenchOfEmptyValues(t *testing.T) {
+	mustSay(t,
+		"put a  | ok", "get a | is ", "scan | a=", "put a 1 | ok", "get a | is 1", "put a  | ok", "get a | is ", "put b 2 | ok", "put c  | ok", "scan | a= b=2 c=",
+		"make | ok", "fall 0 | ok", "scan | a= b=2 c=", "flush | ok", "get a | is ", "scan | a= b=2 c=",
+		"put b  | ok", "flush | ok", "press 0 | ok", "get b | is ", "scan | a= b= c=", "settle | ok", "fall 9999 | ok", "scan | a= b= c=",
+		"del a | ok", "get a | none", "scan | b= c=", "put a  | ok", "get a | is ", "scan | a= b= c=")
+	mustSay(t,
+		"at 1 put a  | dot 1.1", "round | level 1", "said 1 | 1.1=-", "at 1 get a | dot 1.2", "round | level 1", "said 1 | 1.1=- 1.2=",
+		"at 2 put a 1 | dot 2.1", "round | level 1", "at 2 put a  | dot 2.2", "round | level 1", "said 2 | 2.1= 2.2=1",
+		"at 3 del a | dot 3.1", "round | level 1", "at 3 get a | dot 3.2", "round | level 1", "said 3 | 3.1= 3.2=-", "safe | safe 0")
+	s, w := mustBuild(t, "put a \nat 3 put a ")
+	if got := s.M.Nodes; len(got) != 1 || got[0] != (impl.Node{P: impl.Pair{Key: "a"}, Tower: 2}) {
+		t.Error(got)
+	}
+	if got := w.Asked; len(got) != 1 || got[0].C != (impl.Cmd{Kind: impl.CmdPut, Key: "a"}) {
+		t.Error(got)
+	}
+}
+
 // The tower is 1 more than what is left of the key's length by MaxTower.
 func TestTowersOfTheBench(t *testing.T) {
 	want := []int{2, 3, 4, 1, 2, 3, 4, 1, 2, 3, 4, 1, 2, 3, 4, 1, 2, 3, 4, 1}
@@ -171,8 +192,8 @@ func TestBenchOfBoth(t *testing.T) {
 // Each line against the call that it names, at stores and clusters of many kinds.
 func TestLinesAndTheirCalls(t *testing.T) {
 	t.Parallel()
-	lines := strings.Split("put a 9,put zz 1,del a,del zz,get a,get b,get k1,get zz,scan,make,flush,settle,press 0,press 1,press 2,fall 0,fall 5,fall 11,fall 9999,files,"+
-		"at 1 put x 1,at 2 del x,at 3 get x,at 1 get y,deliver 0,deliver 1,deliver 499,drop 0,drop 2,double 0,double 1,again 1,again 2,again 3,reboot 1,reboot 2,reboot 3,round,said 1,said 2,said 3,safe", ",")
+	lines := strings.Split("put a 9,put a ,put zz 1,del a,del zz,get a,get b,get k1,get zz,scan,make,flush,settle,press 0,press 1,press 2,fall 0,fall 5,fall 11,fall 9999,files,"+
+		"at 1 put x 1,at 2 put x ,at 2 del x,at 3 get x,at 1 get y,deliver 0,deliver 1,deliver 499,drop 0,drop 2,double 0,double 1,again 1,again 2,again 3,reboot 1,reboot 2,reboot 3,round,said 1,said 2,said 3,safe", ",")
 	said := map[string]map[string]bool{}
 	for why, ahead := range benchStates() {
 		before := mustBench(t, ahead)
@@ -187,7 +208,7 @@ func TestLinesAndTheirCalls(t *testing.T) {
 			said[line][got] = true
 		}
 	}
-	for _, line := range []string{"put a 9", "get a", "scan", "flush", "press 0", "press 1", "files", "at 2 del x", "deliver 0", "drop 0", "double 1", "again 3", "round", "said 1"} {
+	for _, line := range []string{"put a 9", "put a ", "get a", "scan", "flush", "press 0", "press 1", "files", "at 2 put x ", "at 2 del x", "deliver 0", "drop 0", "double 1", "again 3", "round", "said 1"} {
 		if len(said[line]) < 2 {
 			t.Errorf("%q says only %v", line, said[line])
 		}

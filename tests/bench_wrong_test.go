@@ -29,7 +29,10 @@ func TestLinesOfAText(t *testing.T) {
 		"\n \n\n":                    "no\n",
 		"put\na\n1":                  "no\nno\nno\n",
 		"put a\n1":                   "no\nno\n",
-		"put a \n1":                  "no\nno\n",
+		"put a \n1":                  "ok\nno\n",
+		"put a ":                     "ok\n",
+		"put a \nget a\nscan":        "ok\nis \na=\n",
+		"put a \r\nget a":            "ok\nis \r\n",
 		"put a 1\nget a\nscan":       "ok\nis 1\na=1\n",
 		"put a 1\rget a":             "no\n",
 		"put a 1\rget":               "ok\n",
@@ -91,10 +94,36 @@ func TestWordsTooFewOrTooMany(t *testing.T) {
 			}
 		}
 	}
+	mustRefuseEmptyWords(t, ahead)
 	for _, line := range strings.Split("put,put k,put k v w,del,del k v,get,get k v,scan 1,scan scan,make 0,flush 0,settle 1,press,press 0 0,fall,fall 0 0,files 1,"+
 		"at,at 1,at 1 put,at 1 put k,at 1 put k v w,at 1 del,at 1 del k v,at 1 get,at 1 get k v,at 1 1 get k,at get k,at put k v,"+
 		"deliver,deliver 0 0,drop,drop 0 0,double,double 0 0,again,again 1 1,reboot,reboot 1 1,round 1,said,said 1 1,safe 0", ",") {
 		mustRefuseLine(t, ahead, line)
+	}
+}
+
+// mustRefuseEmptyWords has an empty word refused, in the place of another one
+// and as one too many; where V stands it is one as any other.
+func mustRefuseEmptyWords(t *testing.T, ahead string) {
+	t.Helper()
+	for _, line := range rightLines() {
+		words := strings.Split(line, " ")
+		for i := range words {
+			emptied := slices.Clone(words)
+			emptied[i] = ""
+			// A line of one word alone is an empty line then.
+			if isVal := strings.Contains(line, "put") && i == len(words)-1; !isVal && len(words) > 1 {
+				mustRefuseLine(t, ahead, strings.Join(emptied, " "))
+			}
+		}
+		for i := range len(words) + 1 {
+			mustRefuseLine(t, ahead, strings.Join(slices.Insert(slices.Clone(words), i, ""), " "))
+		}
+	}
+	for _, line := range []string{"put ", "put  ", "put   ", "put  1", "put  1 ", "put a  ", "put a  1", "put a 1 ", " put a ", "del ", "del  ", "del a ", "get ", "get  ", "get a ", "scan ", "make ", "press ", "fall ", "said ", "deliver ", " safe", "safe ",
+		"at ", "at 1 ", "at 1 put ", "at 1 put  ", "at 1 put  1", "at 1 put a  ", "at 1 del ", "at 1 del a ", "at 1 get ", "at 1 get  ", "at  put a ", "at 4 put a ", "at 1  a "} {
+		mustRefuseLine(t, ahead, line)
+		mustRefuseLine(t, "", line)
 	}
 }
 
@@ -219,6 +248,7 @@ func TestPlacesInTheNet(t *testing.T) {
 }
 
 func TestKeysAndValuesOfALine(t *testing.T) {
+	mustTakeValues(t, []string{"", "-", "=", strings.Repeat("x", 20), strings.Repeat("\xff", 20)})
 	right := []string{"k", "=", "-", "0", "00", "-1", "put", "K", "V", "a=b", "\x00", "\xff", "\xff\xfe\x80", "\t", "\r", "\v", "ä", "\u00a0", "\u2028", "\U0001F600", "\"", "\\n", strings.Repeat("x", 20), strings.Repeat("\xff", 20), strings.Repeat("ä", 10), strings.Repeat("x", 19)}
 	for _, word := range right {
 		text := fmt.Sprintf("put %[1]s %[1]s\nget %[1]s\nscan\nat 1 put %[1]s %[1]s\nat 1 get %[1]s\nround\nsaid 1\nflush\nget %[1]s\nfall 0\nget %[1]s\ndel %[1]s\nget %[1]s\nscan\nat 1 del %[1]s\nround\nsaid 1\nat 2 get %[1]s\nround\nsaid 2\n", word)
@@ -231,11 +261,27 @@ func TestKeysAndValuesOfALine(t *testing.T) {
 			t.Errorf("%q: %v, %v", word, s.M, w.Asked)
 		}
 	}
-	for _, word := range []string{"", strings.Repeat("x", 21), strings.Repeat("\xff", 21), strings.Repeat("ä", 11), strings.Repeat("ä", 10) + "x", strings.Repeat("x", 100), strings.Repeat("x", 2500), "thiskeyiswaytoolongforit"} {
+	for _, form := range []string{"put # 1", "put # #", "del #", "get #", "at 1 put # 1", "at 2 put # #", "at 3 del #", "at 1 get #"} {
+		mustRefuseLine(t, "put k 1\nat 1 put k 1\n", strings.ReplaceAll(form, "#", ""))
+	}
+	for _, word := range []string{strings.Repeat("x", 21), strings.Repeat("\xff", 21), strings.Repeat("ä", 11), strings.Repeat("ä", 10) + "x", strings.Repeat("x", 100), strings.Repeat("x", 2500), "thiskeyiswaytoolongforit"} {
 		for _, form := range []string{"put # 1", "put k #", "put # #", "del #", "get #", "at 1 put # 1", "at 1 put k #", "at 2 put # #", "at 3 del #", "at 1 get #"} {
 			line := strings.ReplaceAll(form, "#", word)
 			mustRefuseLine(t, "", line)
 			mustRefuseLine(t, "put k 1\nat 1 put k 1\n", line)
+		}
+	}
+}
+
+// mustTakeValues has a key take each value, in the store and in the cluster,
+// and tell it again.
+func mustTakeValues(t *testing.T, values []string) {
+	t.Helper()
+	for _, val := range values {
+		text := fmt.Sprintf("put k %[1]s\nget k\nscan\nflush\nget k\nfall 0\nget k\nat 1 put k %[1]s\nat 1 get k\nround\nsaid 1\nat 2 put k 1\nround\nsaid 2\n", val)
+		want := fmt.Sprintf("ok\nis %[1]s\nk=%[1]s\nok\nis %[1]s\nok\nis %[1]s\ndot 1.1\ndot 1.2\nlevel 1\n1.1=- 1.2=%[1]s\ndot 2.1\nlevel 1\n2.1=%[1]s\n", val)
+		if got := mustBench(t, text); got != want {
+			t.Errorf("%q: %q", val, got)
 		}
 	}
 }
@@ -301,7 +347,7 @@ func TestRefusedLines(t *testing.T) {
 func TestRefusedLinesEverywhere(t *testing.T) {
 	t.Parallel()
 	for _, ahead := range benchStates() {
-		for _, line := range []string{"put a", "put a 1 ", "put  1", " get a", "del", "get", "scan 1", "press 3", "press", "press 00", "fall -1", "fall 10000", "fall x", "at 0 put k 1", "at 4 put k 1", "at 1 fly k",
+		for _, line := range []string{"put a", "put a 1 ", "put  1", "put a  ", "put ", "at 1 put  ", "at 1 put a  ", "scan ", " safe", " get a", "del", "get", "scan 1", "press 3", "press", "press 00", "fall -1", "fall 10000", "fall x", "at 0 put k 1", "at 4 put k 1", "at 1 fly k",
 			"at 1 put k", "at 1 put k " + strings.Repeat("v", 21), "deliver 500", "deliver 01", "drop 9999", "double -1", "again 0", "again 4", "reboot 0", "reboot 4", "said 0", "said 4", "round 1", "safe 0", "fly", " "} {
 			mustRefuseLine(t, ahead, line)
 		}
